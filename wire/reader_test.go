@@ -154,6 +154,7 @@ func TestReadLongNumbers(t *testing.T) {
 	}
 }
 
+// P102: a Bool is a byte 0 or 1, and no other one.
 func TestReadBools(t *testing.T) {
 	for c := range 256 {
 		r := wire.Read([]byte{byte(c), 1})
@@ -168,6 +169,7 @@ func TestReadBools(t *testing.T) {
 	}
 }
 
+// P102: fewer bytes than there must be, however many that is.
 func TestReadBytesThatEndTooEarly(t *testing.T) {
 	for _, b := range []string{
 		"\x01",
@@ -182,7 +184,7 @@ func TestReadBytesThatEndTooEarly(t *testing.T) {
 	}
 }
 
-// P102: at most, and one beyond it.
+// P102: one more than is allowed, or none allowed.
 func TestReadTooLarge(t *testing.T) {
 	for _, c := range []struct {
 		n    uint64
@@ -201,6 +203,7 @@ func TestReadTooLarge(t *testing.T) {
 	}
 }
 
+// P102: just as many as are allowed.
 func TestReadAtMost(t *testing.T) {
 	for _, n := range []int{0, 1, 8, 127, 128, 200} {
 		r := wire.Read(wire.Num(nil, uint64(n)))
@@ -248,7 +251,8 @@ func TestFirstWrongStays(t *testing.T) {
 	isWrong(t, "Malformed first", r, api.Malformed)
 }
 
-func TestNilAndZeroReaders(t *testing.T) {
+// P102: nil is as one that is Malformed; a reader of no bytes is not.
+func TestNilAndEmptyReaders(t *testing.T) {
 	isWrong(t, "nil", nil, api.Malformed)
 	for what, r := range map[string]*wire.Reader{"none": wire.Read(nil), "an empty list": wire.Read([]byte{})} {
 		if r.Left() != 0 || r.Done() != api.OK {

@@ -33,6 +33,7 @@ func TestNumForms(t *testing.T) {
 	}
 }
 
+// P101: an Int is the Num of twice it, or of less twice it, less 1.
 func TestIntForms(t *testing.T) {
 	for _, c := range []struct {
 		n    int64
@@ -49,6 +50,7 @@ func TestIntForms(t *testing.T) {
 	}
 }
 
+// P101: bytes and texts behind how many they are; a Bool in one byte.
 func TestBytesTextBoolForms(t *testing.T) {
 	long := strings.Repeat("x", 200)
 	for _, c := range []struct {
@@ -116,6 +118,7 @@ func TestPutSharesNothing(t *testing.T) {
 	}
 }
 
+// Rule 4: the list that Bytes puts is not kept.
 func TestBytesKeepsItsListApart(t *testing.T) {
 	x := []byte("abc")
 	got := wire.Bytes(nil, x)
