@@ -6,26 +6,11 @@ import (
 	"testing"
 
 	"cachette/api"
+	"cachette/sample"
 )
 
-// at: the stamp of t and w.
-func at(t int64, w int) api.Stamp {
-	return api.Stamp{T: t, W: w}
-}
-
-// mk, mv, rm and wr: right operations of the four kinds.
-func mk(s, parent api.Stamp, dir bool, name string) api.Op {
-	return api.Op{Kind: 1, At: s, Node: s, Parent: parent, Dir: dir, Name: name}
-}
-func mv(s, node, parent api.Stamp, name string) api.Op {
-	return api.Op{Kind: 2, At: s, Node: node, Parent: parent, Name: name}
-}
-func rm(s, node api.Stamp) api.Op {
-	return api.Op{Kind: 3, At: s, Node: node}
-}
-func wr(s, node api.Stamp, data string) api.Op {
-	return api.Op{Kind: 4, At: s, Node: node, Data: []byte(data)}
-}
+// Stamps, and right operations of the four kinds.
+var at, mk, mv, rm, wr = sample.At, sample.Make, sample.Move, sample.Remove, sample.Write
 
 // four: a right operation of each kind.
 func four() []api.Op {

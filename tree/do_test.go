@@ -7,20 +7,6 @@ import (
 	"cachette/api"
 )
 
-// mk, mv, rm and wr: right operations of the four kinds.
-func mk(s, parent api.Stamp, dir bool, name string) api.Op {
-	return api.Op{Kind: 1, At: s, Node: s, Parent: parent, Dir: dir, Name: name}
-}
-func mv(s, node, parent api.Stamp, name string) api.Op {
-	return api.Op{Kind: 2, At: s, Node: node, Parent: parent, Name: name}
-}
-func rm(s, node api.Stamp) api.Op {
-	return api.Op{Kind: 3, At: s, Node: node}
-}
-func wr(s, node api.Stamp, data string) api.Op {
-	return api.Op{Kind: 4, At: s, Node: node, Data: []byte(data)}
-}
-
 // does: Do's answer is the item as it was (nil: none was there), and OK; behind it u has just those items.
 func does(t *testing.T, u *Tree, o api.Op, was *Item, want ...Item) {
 	t.Helper()

@@ -8,14 +8,13 @@ import (
 	"testing"
 
 	"cachette/api"
+	"cachette/sample"
 )
 
 var root = api.Stamp{}
 
-// at: the stamp of t and w.
-func at(t int64, w int) api.Stamp {
-	return api.Stamp{T: t, W: w}
-}
+// Stamps, and right operations of the four kinds.
+var at, mk, mv, rm, wr = sample.At, sample.Make, sample.Move, sample.Remove, sample.Write
 
 // file and dir: items as they are made.
 func file(n, parent api.Stamp, name string) Item {
